@@ -89,12 +89,15 @@ func validProcs() []api.Proc {
 	return l
 }
 
-// TestP8_5Equal changes every field at all depths, alone.
+// TestP8_5Equal changes every field at all depths, alone (of procedures with very many fields, only some of them).
 func TestP8_5Equal(t *testing.T) {
 	for _, p := range append(strangeProcs(), validProcs()[:9]...) {
 		checkEqual(t, p, p, true)
 		number := len(procEdits(&p))
-		step := 1 + number/100
+		step := 1
+		if number > 1000 {
+			step = number / 100
+		}
 		for i := 0; i < number; i += step {
 			q := roomyProc(p)
 			procEdits(&q)[i]()
